@@ -1186,6 +1186,15 @@ func TestDeepestExpressions(t *testing.T) {
 	reads(t, "S -> { !1"+strings.Repeat("&1", 9)+" } ;")
 	readsNot(t, "S -> { !!1"+strings.Repeat("&1", 9)+" } ;")
 	reads(t, "S -> { ((1)*(1))-((1)/(1)) } ;")
+	// What is shown has parentheses around each two: it may be deeper than what was read.
+	for terms := 2; terms <= 10; terms++ {
+		sum, _ := checkReading(t, "S -> { 1"+strings.Repeat("+1", terms-1)+" } ;")
+		text, ok := impl.ShowSurface(sum)
+		if !ok || strings.Count(text, "(") != terms-1 {
+			t.Fatalf("a sum of %d is shown as %q", terms, text)
+		}
+		takesIf(t, text, 3+2*(terms-1) <= 20)
+	}
 }
 
 func TestLongestTexts(t *testing.T) {
