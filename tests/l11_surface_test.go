@@ -615,6 +615,10 @@ func refuseSurface(t *testing.T, what string, s impl.Surface) {
 	if checkSurface(t, what, s) {
 		t.Fatalf("%s: right:\n%s", what, surfacePicture(s))
 	}
+	if ends := impl.SurfaceEnds(s, "a", 0); len(ends) > 0 {
+		t.Fatalf("%s: SurfaceEnds = %v of\n%s", what, ends, surfacePicture(s))
+	}
+	checkNames(t, what, s)
 }
 
 // checkReading holds for any text, whatever is in it.
