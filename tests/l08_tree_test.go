@@ -988,21 +988,27 @@ func rankless(g impl.Grammar, text string, tree impl.Tree) string {
 	return "none"
 }
 
+// turnedTree is the tree with one number of one node turned a little, or not at all.
+func turnedTree(next func(n int) int, tree impl.Tree) impl.Tree {
+	turned := impl.Tree{Nodes: slices.Clone(tree.Nodes)}
+	node := &turned.Nodes[next(len(turned.Nodes))]
+	node.Args, node.Kids = slices.Clone(node.Args), slices.Clone(node.Kids)
+	fields := []*int{&node.Rule, &node.Alt, &node.From, &node.To}
+	for i := range node.Args {
+		fields = append(fields, &node.Args[i])
+	}
+	for i := range node.Kids {
+		fields = append(fields, &node.Kids[i])
+	}
+	*fields[next(len(fields))] += next(5) - 2
+	return turned
+}
+
 // spoilTree turns one number of one node, and holds what is answered then against what is answered slowly.
 func spoilTree(t *testing.T, next func(n int) int, g impl.Grammar, text string, tree impl.Tree) {
 	t.Helper()
 	for range 4 {
-		spoiled := impl.Tree{Nodes: slices.Clone(tree.Nodes)}
-		node := &spoiled.Nodes[next(len(spoiled.Nodes))]
-		node.Args, node.Kids = slices.Clone(node.Args), slices.Clone(node.Kids)
-		fields := []*int{&node.Rule, &node.Alt, &node.From, &node.To}
-		for i := range node.Args {
-			fields = append(fields, &node.Args[i])
-		}
-		for i := range node.Kids {
-			fields = append(fields, &node.Kids[i])
-		}
-		*fields[next(len(fields))] += next(5) - 2
+		spoiled := turnedTree(next, tree)
 		if got, want := impl.TreeOk(g, text, spoiled), slowTreeOk(g, text, spoiled); got != want {
 			t.Fatalf("TreeOk(%v, %q, %v) = %v", g, text, spoiled, got)
 		}
