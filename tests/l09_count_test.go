@@ -887,8 +887,8 @@ func growByHeight(g impl.Grammar, text string, height int) ([]impl.Tree, bool) {
 	return trees, true
 }
 
-// By TreeOk alone: as many trees as it takes are counted, and just these are listed.
-func TestTreesArePutTogetherByHand(t *testing.T) {
+// lowGrammars have few trees that are low, so that they may be put together: some by hand, and so many seeds.
+func lowGrammars(seeds int) map[string]impl.Grammar {
 	s, a, b := symCall("S"), symText("a"), symText("b")
 	down := exprOf(named("n"), num(1), pair(impl.ExSub, 0, 1))
 	grammars := map[string]impl.Grammar{
@@ -899,11 +899,16 @@ func TestTreesArePutTogetherByHand(t *testing.T) {
 		"numbers":    grammarOf(ruleOf("S", "", altOf(symCall("R", number(2)), symCall("R", number(0)))), ruleOf("R", "n", altOf(symIf(asked("n")), symSet("ab"), symCall("R", down)), altOf(symIf(exprOf(named("n"), not(0)))))),
 		"bound":      grammarOf(ruleOf("S", "", altOf(symBound("n", "T"), symCall("T"), symCall("R", asked("n")))), ruleOf("T", "", altOf(), altOf(a)), ruleOf("R", "n", altOf(symIf(same(named("n"), num(1))), b), altOf(b))),
 	}
-	for seed := range 80 {
+	for seed := range seeds {
 		grammars[fmt.Sprint("seed ", seed)] = smallGrammar(seeded(seed))
 	}
+	return grammars
+}
+
+// By TreeOk alone: as many trees as it takes are counted, and just these are listed.
+func TestTreesArePutTogetherByHand(t *testing.T) {
 	compared, several := 0, 0
-	for what, g := range grammars {
+	for what, g := range lowGrammars(80) {
 		for _, text := range []string{"", "a", "ab", "aab"} {
 			for height := 1; height <= 3; height++ {
 				trees, ok := growByHeight(g, text, height)
