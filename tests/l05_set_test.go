@@ -497,6 +497,7 @@ func TestJoinAndMeetRefuseWhatIsNoSet(t *testing.T) {
 }
 
 func TestSetsAreJoinedAndMetByteByByte(t *testing.T) {
+	t.Parallel()
 	sets := rightSets()
 	someSets(150, func(s string) { sets = append(sets, s) })
 	for _, a := range sets {

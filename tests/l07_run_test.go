@@ -721,6 +721,7 @@ func countGrammar(alts ...impl.Alt) impl.Grammar {
 }
 
 func TestAsManyGoalsAsThereMayBe(t *testing.T) {
+	t.Parallel()
 	g := countGrammar()
 	for _, b := range []int{0, 1, 2, 50, 99} {
 		c, ok := impl.RunGoal(g, "z", "C", []int{0, b}, 0)
@@ -1027,6 +1028,7 @@ func smallGrammar(next func(n int) int) impl.Grammar {
 }
 
 func TestRunsOfManySeeds(t *testing.T) {
+	t.Parallel()
 	const seeds = 4000
 	ended, late, lesser, many, refused := 0, 0, 0, 0, 0
 	for seed := range seeds {
@@ -1069,6 +1071,7 @@ func sharesInts(a, b []int) bool {
 }
 
 func TestRunsShareNoMemory(t *testing.T) {
+	t.Parallel()
 	grammars := rightGrammars()
 	for seed := range 300 {
 		grammars[fmt.Sprint("seed ", seed)] = smallGrammar(seeded(seed))

@@ -936,6 +936,7 @@ func TestWhatHasATreeIsWhatMayBeRead(t *testing.T) {
 }
 
 func TestFirstTreesOfManySeeds(t *testing.T) {
+	t.Parallel()
 	const seeds = 1200
 	trees, high, ranked := 0, 0, 0
 	for seed := range seeds {

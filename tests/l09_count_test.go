@@ -907,6 +907,7 @@ func lowGrammars(seeds int) map[string]impl.Grammar {
 
 // By TreeOk alone: as many trees as it takes are counted, and just these are listed.
 func TestTreesArePutTogetherByHand(t *testing.T) {
+	t.Parallel()
 	compared, several := 0, 0
 	for what, g := range lowGrammars(80) {
 		for _, text := range []string{"", "a", "ab", "aab"} {
@@ -964,6 +965,7 @@ func runsSmall(g impl.Grammar, text, name string, args []int, from int) bool {
 }
 
 func TestWaysOfManySeeds(t *testing.T) {
+	t.Parallel()
 	const seeds = 400
 	several, many, greatest, listed, cut := 0, 0, 0, 0, 0
 	for seed := range seeds {
@@ -997,6 +999,7 @@ func TestWaysOfManySeeds(t *testing.T) {
 
 // What has a tree that is not too high has a way, the first tree among them.
 func TestFirstTreesAreCounted(t *testing.T) {
+	t.Parallel()
 	found := 0
 	for seed := range 300 {
 		g := smallGrammar(seeded(seed))
@@ -1020,6 +1023,7 @@ func TestFirstTreesAreCounted(t *testing.T) {
 
 // A rule with as many calls as there may be, over as long a text: ways that come together are not gone one by one.
 func TestManyWaysAreCounted(t *testing.T) {
+	t.Parallel()
 	eight := altOf(slices.Repeat([]impl.Sym{symCall("R", plus("n", 1))}, 8)...)
 	text := strings.Repeat("a", 12)
 	counted := func(g impl.Grammar, length, want int) {
@@ -1058,6 +1062,7 @@ func TestManyWaysAreCounted(t *testing.T) {
 }
 
 func TestWaysShareNoMemory(t *testing.T) {
+	t.Parallel()
 	grammars := rightGrammars()
 	grammars["both sides"], grammars["twice"] = bothSides(), wideGrammar(3)
 	for seed := range 150 {

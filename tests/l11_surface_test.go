@@ -971,6 +971,7 @@ func TestTextsNearWrongOnes(t *testing.T) {
 
 // A right text breaks off at each of its bytes: what is left is never a grammar, for the first rule calls the last.
 func TestTextsThatBreakOff(t *testing.T) {
+	t.Parallel()
 	whole := "S -> n:N(1,!@) ( \"a\" { n < (5 + 1) } | [a-c] )* ( )? |  ;\nN(a,b) -> a1:S | ( { a } )+ ;\n"
 	readsNot(t, whole)
 	whole = strings.ReplaceAll(whole, "a1:", "c:")
@@ -1647,6 +1648,7 @@ func someTreeExpr(next func(n int) int, e *impl.Expr, room int, known []string) 
 
 // Each expression that is written as it is read comes back, as far as it is not nested too deep.
 func TestExpressionsComeBack(t *testing.T) {
+	t.Parallel()
 	known, back, deep := strings.Fields("a b c"), 0, 0
 	for seed := range 4000 {
 		next := seeded(seed)
@@ -1833,6 +1835,7 @@ func spoilSurface(next func(n int) int, s *impl.Surface) {
 }
 
 func TestSurfacesOfManySeeds(t *testing.T) {
+	t.Parallel()
 	const seeds = 4000
 	right, back := [2]int{}, 0
 	for seed := range seeds {
@@ -1859,6 +1862,7 @@ func TestSurfacesOfManySeeds(t *testing.T) {
 
 // Shown texts with tokens left out, doubled, turned or exchanged are read as the slow reading reads them.
 func TestTextsOfManySeeds(t *testing.T) {
+	t.Parallel()
 	taken, tried := 0, 0
 	for seed := range 3000 {
 		next := seeded(-1 - seed)

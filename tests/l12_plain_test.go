@@ -503,6 +503,7 @@ func TestEndsOfGroupsThatCallTheirRuleByHand(t *testing.T) {
 }
 
 func TestEachKindOfGroup(t *testing.T) {
+	t.Parallel()
 	bodies := [][]thing{
 		{aRow()}, {aRow(aText("a"))}, {aRow(aText("a")), aRow(aText("ab"))}, {aRow(), aRow(aText("a")), aRow(aText("b"))},
 		{aRow(aText("a")), aRow(), aRow(aSet("ab"))}, {aRow(aText("a")), aRow(aText("b")), aRow()}, {aRow(aText("a"), aText("a"))},
@@ -521,6 +522,7 @@ func TestEachKindOfGroup(t *testing.T) {
 }
 
 func TestEachKindOfGroupInEach(t *testing.T) {
+	t.Parallel()
 	for _, outer := range groupKinds() {
 		for _, inner := range groupKinds() {
 			what := fmt.Sprintf("%d in %d", inner, outer)
@@ -972,6 +974,7 @@ func smallSurface(next func(n int) int) impl.Surface {
 }
 
 func TestMeaningsOfManySeeds(t *testing.T) {
+	t.Parallel()
 	const seeds = 4000
 	right, ended, several, grouped := 0, 0, 0, 0
 	for seed := range seeds {
@@ -996,6 +999,7 @@ func TestMeaningsOfManySeeds(t *testing.T) {
 
 // Longer texts, and expressions of all kinds: held against the plain rules alone.
 func TestMeaningsOfLongTexts(t *testing.T) {
+	t.Parallel()
 	ended, far := 0, 0
 	for seed := range 1000 {
 		next := seeded(-1 - seed)
@@ -1039,6 +1043,7 @@ func TestSpoiltSurfacesOfManySeeds(t *testing.T) {
 
 // A group without a sign may stand around all rows of a rule.
 func TestGroupsThatChangeNothing(t *testing.T) {
+	t.Parallel()
 	for seed := range 1500 {
 		next := seeded(seed)
 		s := smallSurface(next)

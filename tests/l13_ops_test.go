@@ -710,6 +710,7 @@ func allRows(signs string, length int) []string {
 }
 
 func TestAllRowsOfTwoOperators(t *testing.T) {
+	t.Parallel()
 	rows := allRows("+*", 11)
 	// 1, 3, 11, 45, 197 and 903 of 1, 3, 5, 7, 9 and 11 bytes.
 	if len(rows) != 1160 {
@@ -736,6 +737,7 @@ func TestAllRowsOfTwoOperators(t *testing.T) {
 
 // Each row of six figures with each operator between, without parentheses.
 func TestAllRowsOfSixFigures(t *testing.T) {
+	t.Parallel()
 	for _, written := range []string{"+1 -1 *2", "^3r =3r +2", "+1 -2 *3 ^4 <5 >6", "+7r -7r *7r ^7r <7r >7r", ",1r =2r <3 +4 *5 ^9r"} {
 		list, signs := opsOf(written), ""
 		for _, op := range list {
@@ -800,6 +802,7 @@ func someRow(next func(n int) int, list []impl.Op, most int) string {
 }
 
 func TestRowsOfManySeeds(t *testing.T) {
+	t.Parallel()
 	lengths, rows := map[int]int{}, 0
 	for seed := range 1800 {
 		next := seeded(seed)
@@ -1176,6 +1179,7 @@ func TestShownOfAsManyNodesAsThereMayBe(t *testing.T) {
 
 // Trees with a number of one of their nodes turned: where they are still trees, they are told as such.
 func TestSpoiltTreesAreNotShown(t *testing.T) {
+	t.Parallel()
 	still, none := 0, 0
 	for seed := range 700 {
 		next := seeded(seed)

@@ -775,6 +775,7 @@ func rowOfParts(count int) impl.Grammar {
 }
 
 func TestAsManyPartsAsThereMayBe(t *testing.T) {
+	t.Parallel()
 	for _, count := range []int{2, 3, 100, 101, 102, 150, 198, 199, 200} {
 		f, ok := checkForest(t, rowOfParts(count), "z")
 		if !ok || len(f.Parts) != count {
@@ -1198,6 +1199,7 @@ func unfolded(f impl.Forest, at, height int) ([]impl.Tree, bool) {
 
 // By TreeOk alone: the trees of a forest are just those that it takes.
 func TestForestsHaveJustTheTreesThatArePutTogether(t *testing.T) {
+	t.Parallel()
 	a, b, call := symText("a"), symText("b"), symCall("T")
 	grammars := lowGrammars(120)
 	grammars["the same Ways"] = grammarOf(ruleOf("S", "", altOf(call, b), altOf(call, b), altOf(symCall("S"), call)), ruleOf("T", "", altOf(a), altOf(a), altOf()))
@@ -1277,6 +1279,7 @@ func checkListedOf(t *testing.T, g impl.Grammar, text string, f impl.Forest) int
 }
 
 func TestForestsHaveTheTreesThatAreListed(t *testing.T) {
+	t.Parallel()
 	several := 0
 	for length := 1; length <= 7; length++ {
 		text := strings.Repeat("a", length)
@@ -1297,6 +1300,7 @@ func TestForestsHaveTheTreesThatAreListed(t *testing.T) {
 }
 
 func TestForestsOfManySeeds(t *testing.T) {
+	t.Parallel()
 	const seeds = 700
 	found, several, circles, great, params := 0, 0, 0, 0, 0
 	for seed := range seeds {
@@ -1455,6 +1459,7 @@ func checkListsApart(t *testing.T, what string, f impl.Forest) {
 }
 
 func TestForestsShareNoMemory(t *testing.T) {
+	t.Parallel()
 	grammars := rightGrammars()
 	grammars["both sides"], grammars["wide"], grammars["deep"] = bothSides(), wideGrammar(3), deepGrammar(20)
 	for seed := range 100 {

@@ -330,6 +330,7 @@ func TestWordsByHand(t *testing.T) {
 }
 
 func TestGrammarsThatAcceptNothingHaveNoWords(t *testing.T) {
+	t.Parallel()
 	s, a := symCall("S"), symText("a")
 	noWords(t, "a circle alone", grammarOf(ruleOf("S", "", altOf(s))))
 	noWords(t, "never at an end", grammarOf(ruleOf("S", "", altOf(a, s))))
@@ -570,6 +571,7 @@ func TestWordsOfGroupsByHand(t *testing.T) {
 
 // The nodes themselves are asked, which know nothing of the plain rules.
 func TestWordsOfGroupsAreThoseOfTheirNodes(t *testing.T) {
+	t.Parallel()
 	found, several := 0, 0
 	for seed := range 300 {
 		s := smallSurface(seeded(seed))
@@ -597,6 +599,7 @@ func TestWordsOfGroupsAreThoseOfTheirNodes(t *testing.T) {
 
 // Each text is a word of its own letters when it is accepted, and is none else.
 func TestWordsAreJustThoseThatAreAccepted(t *testing.T) {
+	t.Parallel()
 	words, others := 0, 0
 	grammars := rightGrammars()
 	grammars["all"], grammars["both sides"] = grammarOf(anyText()), bothSides()
@@ -923,6 +926,7 @@ func TestWrongGrammarsAreRenamedAsTheyAre(t *testing.T) {
 
 // Whatever is added that is not come to: the words, the trees and what is Trimmed stay.
 func TestWhatIsNotComeToChangesNothing(t *testing.T) {
+	t.Parallel()
 	grammars := rightGrammars()
 	for seed := range 60 {
 		grammars[fmt.Sprint("seed ", seed)] = smallGrammar(seeded(seed))
@@ -948,6 +952,7 @@ func TestWhatIsNotComeToChangesNothing(t *testing.T) {
 
 // Each rule by another name, one after the other, and names that two rules have changed over.
 func TestWhatARuleIsCalledChangesNothing(t *testing.T) {
+	t.Parallel()
 	grammars := rightGrammars()
 	for seed := range 60 {
 		grammars[fmt.Sprint("seed ", seed)] = smallGrammar(seeded(seed))
@@ -1011,6 +1016,7 @@ func TestTrimmedAndRenamedTogether(t *testing.T) {
 }
 
 func TestWordsOfManySeeds(t *testing.T) {
+	t.Parallel()
 	const seeds = 700
 	found, many, empty, trimmed, named := 0, 0, 0, 0, 0
 	for seed := range seeds {
@@ -1036,6 +1042,7 @@ func TestWordsOfManySeeds(t *testing.T) {
 
 // Grammars that may be wrong: these are handed back, and have no words.
 func TestSpoiltGrammarsOfManySeeds(t *testing.T) {
+	t.Parallel()
 	const seeds = 4000
 	right, trimmed, renamed := 0, 0, 0
 	for seed := range seeds {
@@ -1185,6 +1192,7 @@ func TestWordsAnswerTheSameAgain(t *testing.T) {
 
 // What is far too great is answered, and soon.
 func TestHugeWords(t *testing.T) {
+	t.Parallel()
 	all := grammarOf(anyText())
 	wordsAre(t, "many letters", all, strings.Repeat("ab", 2000000), 2, "- a b aa ab ba bb")
 	wordsAre(t, "many letters", all, strings.Repeat(allBytes(), 20000), 4, "-")

@@ -633,6 +633,7 @@ func TestGreatGrammarsWithOneBitTurnedAreRefused(t *testing.T) {
 
 // Each byte of what is sealed is each other one, and that is sealed anew.
 func TestOtherBytesSealedAnew(t *testing.T) {
+	t.Parallel()
 	taken := 0
 	for what, g := range turnedGrammars() {
 		inside := insideOf(g)
@@ -1369,6 +1370,7 @@ func spoilText(next func(n int) int, text string) string {
 }
 
 func TestSpoiltBytesOfManySeeds(t *testing.T) {
+	t.Parallel()
 	const seeds = 60000
 	taken := 0
 	for seed := range seeds {
