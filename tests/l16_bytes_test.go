@@ -76,7 +76,8 @@ func slowExprText(e impl.Expr) (string, bool) {
 }
 
 func slowGrammarText(g impl.Grammar) (string, bool) {
-	if !slowGrammarOk(g) || len(insideOf(g)) > 20000 {
+	// The four bytes of the sum are told, too.
+	if !slowGrammarOk(g) || len(insideOf(g))+4 > 20000 {
 		return "", false
 	}
 	return slowSealed(insideOf(g)), true
@@ -175,7 +176,7 @@ func (s *slowBytes) rule() impl.Rule {
 
 func slowReadGrammar(text string) (impl.Grammar, bool) {
 	end := len(text) - 4
-	if end < 0 || end > 20000 || slowSealed(text[:end]) != text {
+	if end < 0 || len(text) > 20000 || slowSealed(text[:end]) != text {
 		return impl.Grammar{}, false
 	}
 	s, g := slowBytes{rest: text[:end]}, impl.Grammar{}
@@ -621,7 +622,7 @@ func TestWithOneByteTurnedTheyAreRefused(t *testing.T) {
 }
 
 func TestGreatGrammarsWithOneBitTurnedAreRefused(t *testing.T) {
-	for _, length := range []int{5000, 20000} {
+	for _, length := range []int{5000, 19996} {
 		text := takeBytes(t, "great", grammarOfBytes(length))
 		for at := 0; at < len(text); at += 37 {
 			if got, ok := impl.ReadGrammar(withByte(text, at, text[at]^byte(1<<(at%8)))); ok || len(got.Rules) > 0 {
@@ -932,9 +933,9 @@ func TestSealedTextsThatAreNoGrammars(t *testing.T) {
 		"", "\x00", "\x01", "S", "\x00\x00", "\x01\x00", "\x01\x00\x00\x00", "\x01\x01S", "\x01\x01S\x00", "\x01\x01S\x00\x00", "\x01\x01S\x00\x01",
 		"\x02\x01S\x00\x01\x00", "\x00\x01S\x00\x01\x00", "\x01\x02S\x00\x01\x00", "\x01\x00S\x00\x01\x00", "\x01\x01S\x01\x01\x00", "\x01\x01S\x00\x02\x00", "\x01\x01S\x00\x01\x01",
 		"\x01\x01s\x00\x09" + strings.Repeat("\x00", 9), "\x01\x01S\x00\x01\x09" + strings.Repeat("\x01\x01a\x00\x00", 9),
-		"\x01\x01S\x01\x01a\x01\x00", "\x02\x01S\x00\x01\x00\x01S\x00\x01\x00", "grammar", "S -> \"a\" ;", allBytes(), mixedText(500), strings.Repeat("\x00", 20000), strings.Repeat("\x01", 20000), strings.Repeat("\xff", 20000),
+		"\x01\x01S\x01\x01a\x01\x00", "\x02\x01S\x00\x01\x00\x01S\x00\x01\x00", "grammar", "S -> \"a\" ;", allBytes(), mixedText(500), strings.Repeat("\x00", 19996), strings.Repeat("\x01", 19996), strings.Repeat("\xff", 19996), strings.Repeat("\x00", 20000),
 		// Ever more of what takes few bytes.
-		"\xa0\x9c\x01" + strings.Repeat("\x00", 19997), "\x01\x01S\x00\xa0\x9c\x01" + strings.Repeat("\x00", 19993), "\x01\x01S\xa0\x9c\x01" + strings.Repeat("\x00", 19994), "\x80\x94\xeb\xdc\x03" + strings.Repeat("\x00", 19995),
+		"\xa0\x9c\x01" + strings.Repeat("\x00", 19993), "\x01\x01S\x00\xa0\x9c\x01" + strings.Repeat("\x00", 19989), "\x01\x01S\xa0\x9c\x01" + strings.Repeat("\x00", 19990), "\x80\x94\xeb\xdc\x03" + strings.Repeat("\x00", 19991),
 		"\x01\x01S\x00\x01\x80\x94\xeb\xdc\x03" + strings.Repeat("\x00", 1000), "\x01\x01S\x00\x01\x01\x04\x00\x00\x80\x94\xeb\xdc\x03" + strings.Repeat("\x01\x00", 1000),
 	} {
 		refuseInside(t, "no grammar", inside)
@@ -986,14 +987,15 @@ func grammarOfBytes(length int) impl.Grammar {
 }
 
 func TestAsManyBytesAsThereMayBe(t *testing.T) {
-	for _, length := range []int{5000, 10000, 16383, 16384, 19990, 19995, 19996, 19997, 19998, 19999, 20000} {
+	for _, length := range []int{5000, 10000, 16379, 16380, 16383, 16384, 19990, 19991, 19992, 19993, 19994, 19995, 19996} {
 		g := grammarOfBytes(length)
 		checkGrammar(t, "great", g)
 		if text := takeBytes(t, fmt.Sprint(length), g); len(text) != length+4 {
 			t.Errorf("%d bytes, and then %d with the sum", length, len(text))
 		}
 	}
-	for _, length := range []int{20001, 20002, 20003, 20004, 20005, 21000, 22000} {
+	// The sum's four bytes count: ahead of it there may be 19996, whatever more may be sealed.
+	for _, length := range []int{19997, 19998, 19999, 20000, 20001, 20002, 20003, 20004, 20005, 21000, 22000} {
 		g := grammarOfBytes(length)
 		checkGrammar(t, "too great", g)
 		refuseBytes(t, fmt.Sprint(length), g)
@@ -1509,7 +1511,7 @@ func TestBytesAnswerTheSameAgain(t *testing.T) {
 // What is far too great is answered, and soon.
 func TestHugeBytes(t *testing.T) {
 	huge := strings.Repeat("\x01", 30000000)
-	for _, text := range []string{huge, huge[:20005], strings.Repeat("\x00", 20005)} {
+	for _, text := range []string{huge, huge[:20001], strings.Repeat("\x00", 20001)} {
 		if g, ok := impl.ReadGrammar(text); ok || len(g.Rules) > 0 {
 			t.Error("a text that is too long is read")
 		}
